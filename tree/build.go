@@ -59,7 +59,7 @@ type builder struct {
 
 // take takes the next event, unless it is wrong.
 func (b *builder) take(e api.Event) api.Errno {
-	n := api.Node{Kind: kindOf(e), Name: e.Name, Attrs: e.Attrs, Text: e.Text}
+	n := nodeOf(e)
 	if !b.goesOn(e.Kind, n) {
 		return api.ErrForm
 	}
@@ -75,9 +75,13 @@ func (b *builder) take(e api.Event) api.Errno {
 		b.put(n)
 		return api.OK
 	}
-	n.Attrs = slices.Clone(n.Attrs)
 	b.open = append(b.open, n)
 	return api.OK
+}
+
+// nodeOf returns a node with the fields of an event. Its list is a copy even if it is empty: the list of the event may have room, into which others append.
+func nodeOf(e api.Event) api.Node {
+	return api.Node{Kind: kindOf(e), Name: e.Name, Attrs: slices.Clone(e.Attrs), Text: e.Text}
 }
 
 // kindOf returns the kind of the node that begins with an event, 0 if there is none.

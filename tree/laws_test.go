@@ -216,6 +216,71 @@ func TestArgumentsHaveRoom(t *testing.T) { // R3
 	}
 }
 
+// roomy is a node whose empty lists have room behind their ends: that of attrs and of kids, which all of them share.
+func roomy(n api.Node, attrs []api.Attr, kids []api.Node) api.Node {
+	if len(n.Attrs) == 0 {
+		n.Attrs = attrs[:0]
+	}
+	of := n.Kids
+	n.Kids = nil
+	for _, kid := range of {
+		n.Kids = append(n.Kids, roomy(kid, attrs, kids))
+	}
+	if len(of) == 0 {
+		n.Kids = kids[:0]
+	}
+	return n
+}
+
+// lengthen appends to all lists of a node.
+func lengthen(n api.Node) {
+	for _, kid := range n.Kids {
+		lengthen(kid)
+	}
+	_ = append(n.Attrs, at("appended", "appended"))
+	_ = append(n.Kids, tx("appended"))
+}
+
+// TestEmptyListsWithRoom appends to the lists of results of arguments whose empty lists have room.
+func TestEmptyListsWithRoom(t *testing.T) { // R3
+	attrs, kids := make([]api.Attr, 3), make([]api.Node, 3)
+	untouched := func(what string) {
+		t.Helper()
+		for i := range attrs {
+			if attrs[i] != (api.Attr{}) || show(kids[i]) != show(api.Node{}) {
+				t.Fatalf("what is appended to the result of %s is in an argument: %s %s", what, showAttrs(attrs), show(kids[i]))
+			}
+		}
+	}
+	d := dice(21)
+	for _, plain := range append(documents(400, 22), el("a", tx("t"))) {
+		n := roomy(plain, attrs, kids)
+		events, _ := Events(n)
+		for i := range events {
+			_ = append(events[i].Attrs, at("appended", "appended"))
+			if untouched("Events"); len(events[i].Attrs) == 0 {
+				events[i].Attrs = attrs[:0]
+			}
+		}
+		_ = append(events, text("appended"))
+		built, _, e := Build(events)
+		lengthen(built)
+		untouched("Build")
+		is(t, "Build", built, e, plain, api.OK)
+		paths, _ := Paths(n)
+		for _, path := range paths {
+			there, _ := At(n, path)
+			lengthen(there)
+			untouched("At")
+		}
+		c, path := d.change(), d.path(n)
+		c.x = roomy(c.x, attrs, kids)
+		edited, _ := c.done(n, path)
+		lengthen(edited)
+		untouched(c.kind)
+	}
+}
+
 // apart checks that what is written to one list of a node, also behind its end, is seen in no other one.
 func apart(t *testing.T, n api.Node) {
 	t.Helper()
